@@ -11,11 +11,10 @@ import (
 // air is a slot that goes by: of each node its clock, where it is, what it sends, and what it answered.
 type air struct {
 	step     api.Step
-	offs     []int64
-	channels []int
-	sent     [][]byte
-	answers  [][]byte
-	before   []offset.Proof
+	offs     [api.MaxNodes]int64
+	channels [api.MaxNodes]int
+	sent     [api.MaxNodes][]byte
+	answers  [api.MaxNodes][]byte
 }
 
 // slot lets a slot go by.
@@ -38,7 +37,7 @@ func (w *World) slot(s api.Step) ([]api.Event, api.Errno) {
 	for _, n := range w.nodes {
 		events = append(events, n.End(w.asn)...)
 	}
-	w.prove(a, events)
+	w.prove(events)
 	clear(w.injected)
 	w.asn++
 	return events, api.OK
@@ -50,12 +49,10 @@ func (w *World) begin(s api.Step) *air {
 		n.Slot(w.asn, at(s.Drift, i))
 		w.proofs[i].Slot()
 	}
-	a := &air{step: s, answers: make([][]byte, len(w.nodes)), before: slices.Clone(w.proofs)}
-	for _, n := range w.nodes {
-		channel, b := n.Plan(w.asn)
-		a.offs = append(a.offs, n.Off())
-		a.channels = append(a.channels, channel)
-		a.sent = append(a.sent, b)
+	a := &air{step: s}
+	for i, n := range w.nodes {
+		a.offs[i] = n.Off()
+		a.channels[i], a.sent[i] = n.Plan(w.asn)
 	}
 	return a
 }
@@ -103,12 +100,13 @@ func (w *World) answer(a *air, i int) []byte {
 	return a.answers[f.Dst]
 }
 
-// prove keeps what is known of how far off each node is, by what was known when the slot began.
-func (w *World) prove(a *air, events []api.Event) {
+// prove keeps what is known of how far off each node is: by what was known when the slot began, as it still is here.
+func (w *World) prove(events []api.Event) {
+	before := slices.Clone(w.proofs)
 	for _, e := range events {
 		switch e.Kind {
 		case api.EMoved:
-			w.proofs[e.I] = a.before[e.Src]
+			w.proofs[e.I] = before[e.Src]
 			w.proofs[e.I].Heard(e.I, e.Src, w.config.Error)
 		case api.ELost:
 			w.proofs[e.I].Lose(e.I)
