@@ -74,6 +74,44 @@ func TestText(t *testing.T) {
 	}
 }
 
+// P3.1: bytes behind any number of bits.
+func TestTextBehind(t *testing.T) {
+	for ahead := range 20 {
+		var a, b bits.Writer
+		a.Put(1, ahead)
+		b.Put(1, ahead)
+		text := []byte{0x12, 0xff, 0x80}
+		a.Text(text)
+		for _, x := range text {
+			b.Put(uint64(x), 8)
+		}
+		a.Put(5, 3)
+		b.Put(5, 3)
+		if a.Bits() != ahead+27 || !bytes.Equal(a.Bytes(), b.Bytes()) {
+			t.Errorf("%d: %x, not %x", ahead, a.Bytes(), b.Bytes())
+		}
+		r := bits.NewReader(a.Bytes())
+		r.Take(ahead)
+		if one, two := r.Text(1), r.Text(2); !bytes.Equal(one, text[:1]) || !bytes.Equal(two, text[1:]) || r.Take(3) != 5 || r.Left() != len(a.Bytes())*8-ahead-27 {
+			t.Errorf("%d: %x %x", ahead, one, two)
+		}
+	}
+}
+
+// P3.2: as long as a bit is left it is not the end.
+func TestEnd(t *testing.T) {
+	r := bits.NewReader([]byte{0})
+	for range 8 {
+		if r.End() != api.ErrForm {
+			t.Error(r.Left(), r.End())
+		}
+		r.Take(1)
+	}
+	if r.End() != api.OK {
+		t.Error(r.End())
+	}
+}
+
 // P3.2: numbers that are taken.
 func TestTake(t *testing.T) {
 	b := []byte{0xa8, 0, 0, 0, 8, 0x10}

@@ -160,7 +160,7 @@ func TestActive(t *testing.T) {
 		{2, []api.Cell{at(0, 2, 3), at(0, 2, 9), at(2, 2, 5)}},
 		{1, []api.Cell{at(0, 1, 0), at(2, 1, 0)}},
 		{api.MaxASN - 4, []api.Cell{at(0, 2, 3), at(0, 2, 9)}},
-		{0, nil}, {-1, nil}, {-3, nil}, {-1 << 63, nil}, {api.MaxASN - 1, nil}, {api.MaxASN + 1, nil}, {1<<63 - 1, nil},
+		{0, nil}, {-1, nil}, {-3, nil}, {-1 << 63, nil}, {api.MaxASN - 1, nil}, {api.MaxASN, nil}, {api.MaxASN + 1, nil}, {1<<63 - 1, nil},
 	} {
 		if got := table.Active(x.asn); !slices.Equal(got, x.want) {
 			t.Error(x.asn, got)

@@ -147,6 +147,8 @@ func TestDeaf(t *testing.T) {
 	if told != "ok drop,3,5 got,0,4,aa drop,3,5 drop,3,5 drop,3,5 drop,3,5 drop,3,5 drop,3,5 drop,4,4" || c.Line("waiting 4") != "0" {
 		t.Error(told, c.Line("waiting 4"))
 	}
+	// so many slots, and no more
+	talk(t, c, "slots 500", "ok", "deaf 4 2 500", "ok", "slots 501", "error 3", "deaf 4 2 501", "error 3", "asn", "2045")
 	// the drift is none
 	c = console.New()
 	talk(t, c, "slots 10 100", "ok", "deaf 1 2 10", "ok", "off 1", "10", "asn", "20")

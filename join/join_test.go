@@ -79,7 +79,7 @@ func TestAsk(t *testing.T) {
 // P18.1: what is no request.
 func TestAskedErrors(t *testing.T) {
 	for s, want := range map[string]api.Errno{
-		"": api.ErrShort, "4a": api.ErrShort, "47": api.ErrForm, "00": api.ErrForm, "6a": api.ErrForm, "4a10": api.ErrForm, "4a40": api.ErrForm, "4a01": api.ErrShort, "4a0110": api.ErrForm, "4a0101": api.ErrForm, "4a0140": api.ErrForm, "4a0102": api.ErrShort,
+		"": api.ErrShort, "4a": api.ErrShort, "47": api.ErrForm, "00": api.ErrForm, "6a": api.ErrForm, "4a10": api.ErrForm, "4a40": api.ErrForm, "4a01": api.ErrShort, "4a0110": api.ErrForm, "4a0101": api.ErrForm, "4a0140": api.ErrForm, "4a0102": api.ErrShort, "4a00": api.ErrShort, "4a0000": api.ErrForm, "4a0001": api.ErrShort,
 		"4a0102 00000000 00000001": api.ErrShort, "4a0102 00000000 00000001 000000": api.ErrShort, "4a0102 00000000 00000001 00000000 00": api.ErrForm, "4a1001 00000000 00000001 00000000": api.ErrForm, "470102 00000000 00000001 00000000": api.ErrForm,
 	} {
 		if r, err := join.Asked(unhex(t, s)); err != want || r != (api.Request{}) {

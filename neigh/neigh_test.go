@@ -72,6 +72,22 @@ func TestReport(t *testing.T) {
 	}
 }
 
+// P16.2: who is heard ever so little is told, but not who isn't.
+func TestLeast(t *testing.T) {
+	table := neigh.New(3)
+	table.Heard(4)
+	for table.Quality(4) > 1 {
+		table.Missed(4)
+	}
+	if l := table.Report(-1, 5); !slices.Equal(l, []api.Link{{A: 3, B: 4, Q: 1}}) {
+		t.Error(l)
+	}
+	table.Missed(4)
+	if l := table.Report(-1, 5); len(l) != 0 {
+		t.Error(l)
+	}
+}
+
 // P16.1, P16.2: nil.
 func TestNil(t *testing.T) {
 	var table *neigh.Table

@@ -192,8 +192,8 @@ func TestSlot(t *testing.T) {
 	r.n.Slot(api.MaxASN-1, -100)
 	r.is(false, 255, 9, 0)
 	r = newRig(t, 0)
-	for range 10 {
-		r.n.Slot(0, 100)
+	for i := range 1000 {
+		r.n.Slot(0, 100-i%2)
 	}
 	r.is(true, 0, 0, 0)
 }
@@ -225,6 +225,24 @@ func TestPlanChannel(t *testing.T) {
 	for asn := int64(20); asn < 60; asn++ {
 		if channel, b := r.n.Plan(asn); channel != []int{11, 15, 20}[asn%3] || (len(b) > 0) != (asn%5 == 3) {
 			t.Error(asn, channel, b)
+		}
+	}
+}
+
+// P24.2: no channel is black.
+func TestPlanOpen(t *testing.T) {
+	c := config()
+	c.Hops = []int{0, 31}
+	for id := range 2 {
+		n := node.New(c, id)
+		var seen []int
+		for asn := range int64(20) {
+			channel, _ := n.Plan(asn)
+			seen = append(seen, channel)
+			n.Slot(asn, 0)
+		}
+		if !slices.Contains(seen, 0) || !slices.Contains(seen, 31) {
+			t.Error(id, seen)
 		}
 	}
 }
@@ -460,20 +478,21 @@ func TestEnd(t *testing.T) {
 	r.has(r.n.Ack(r.asn, r.ack(2, 3, 2, f.Seq), 0))
 	r.has(r.n.Ack(r.asn, nil, 0))
 	r.has(r.n.End(start + 14))
-	// it listens again as long as at first
+	// it listens again as long as at first; what it sent is forgotten
 	for i := range 11 {
-		_, events := r.n.Hear(r.asn, r.beacon(1, 7), 0)
+		_, events := r.n.Hear(r.asn, r.beacon(2, 7), 0)
 		r.has(events)
 		r.n.Slot(r.asn, i)
 	}
-	_, events := r.n.Hear(r.asn, r.beacon(1, 7), 0)
+	_, events := r.n.Hear(r.asn, r.beacon(2, 7), 0)
 	if len(events) != 4 {
 		t.Error(events)
 	}
-	r.is(true, 8, 0, 0, 1)
+	r.is(true, 8, 0, 0, 2)
 	r.has(r.n.Ack(r.asn, r.ack(2, 3, 2, f.Seq), 0))
+	r.is(true, 8, 0, 0, 2)
 	// what Hear left without a parent is lost at the end
-	r.n.Hear(r.asn, r.beacon(1, 8), 0)
+	r.n.Hear(r.asn, r.beacon(2, 8), 0)
 	r.has(r.n.End(r.asn), ev(api.ELost, 3, 0))
 	r = newRig(t, 0)
 	for asn := range int64(100) {
@@ -620,6 +639,14 @@ func TestAckFollows(t *testing.T) {
 	r.n.Hear(r.asn, r.beacon(0, 2), 0)
 	r.has(r.n.Ack(r.asn, r.ack(1, 3, 0, f.Seq, correct), 0))
 	r.is(true, 3, 0, 0, 0, 1, 2)
+	// whom it was sent to left it without a parent
+	r = synced(t)
+	r.n.Hear(r.asn, r.beacon(0, 1), 0)
+	r.n.Send(r.asn, 0, []byte("x"))
+	f = r.turn(3)
+	r.n.Hear(r.asn, r.beacon(0, 9), 0)
+	r.has(r.n.Ack(r.asn, r.ack(0, 3, 1, f.Seq, correct), 0))
+	r.is(true, 2, 0, 0)
 	// a sign of life: the parent is heard at that slot
 	r, f = send()
 	r.n.Ack(r.asn, r.ack(1, 3, 2, f.Seq), 0)

@@ -62,12 +62,13 @@ func TestNew(t *testing.T) {
 			want(t, p, i, 0, i == 0)
 			p.Heard(i, 0, 7)
 		}
+		p.Slot()
 		for i := range 18 {
 			known := i < top
 			if i == 0 || !known {
 				want(t, p, i, 0, known)
 			} else {
-				want(t, p, i, 7, true)
+				want(t, p, i, 8, true)
 			}
 		}
 		want(t, p, -1, 0, false)

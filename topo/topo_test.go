@@ -84,6 +84,10 @@ func TestQuality(t *testing.T) {
 			t.Error(x, l)
 		}
 	}
+	says(t, g, 1, 2, 1)
+	if l := g.Near(1, -1); !slices.Equal(l, []int{2}) {
+		t.Error(l)
+	}
 	says(t, g, 1, 2, 3)
 	if g.Quality(0, 1) != 0 || g.Quality(1, 2) != 3 {
 		t.Error(g.Quality(0, 1), g.Quality(1, 2))

@@ -174,7 +174,7 @@ func TestPlan(t *testing.T) {
 	has(5, a, c, far)
 	p.Cells()[0].Slot = 9
 	has(5, a, c, far)
-	errs(t, p.Commit(5), api.ErrState, p.Commit(0), api.ErrState, p.Prepare(5, nil), api.ErrOld, p.Prepare(1, many), api.ErrArg, p.Prepare(1, nil), api.ErrOld)
+	errs(t, p.Commit(5), api.ErrState, p.Commit(0), api.ErrState, p.Commit(1), api.ErrState, p.Prepare(5, nil), api.ErrOld, p.Prepare(1, many), api.ErrArg, p.Prepare(1, nil), api.ErrOld)
 	errs(t, p.Prepare(9, []api.Cell{a}), api.OK, p.Prepare(5, nil), api.ErrOld, p.Prepare(9, many), api.ErrArg, p.Prepare(7, []api.Cell{c}), api.OK, p.Commit(9), api.ErrState, p.Commit(7), api.OK)
 	has(7, c)
 	errs(t, p.Prepare(8, many[:64]), api.OK, p.Prepare(big, nil), api.OK, p.Commit(8), api.ErrState, p.Commit(big), api.OK)

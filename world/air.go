@@ -80,21 +80,21 @@ func (w *World) hear(a *air, i int) []api.Event {
 
 // reaches tells whether what j sends comes to i.
 func (w *World) reaches(a *air, i, j int) bool {
-	if a.channels[i] != a.channels[j] || !isBit(w.config.Near[i], j) || isBit(at(a.step.Lost, i), j) {
+	if a.channels[i] != a.channels[j] || !isBit(w.near[i], j) || isBit(at(a.step.Lost, i), j) {
 		return false
 	}
-	return !w.nodes[i].Synced() || offset.Within(a.offs[i], a.offs[j], w.config.Guard)
+	return !w.nodes[i].Synced() || offset.Within(a.offs[i], a.offs[j], w.guard)
 }
 
 // measure is how far i finds its clock to be from that of j.
 func (w *World) measure(a *air, i, j int) int {
-	return offset.Measure(a.offs[i], a.offs[j], at(a.step.Err, i), w.config.Error)
+	return offset.Measure(a.offs[i], a.offs[j], at(a.step.Err, i), w.err)
 }
 
 // answer is what comes back to i.
 func (w *World) answer(a *air, i int) []byte {
 	f, err := frame.Decode(a.sent[i])
-	if err != api.OK || !w.has(f.Dst) || !isBit(w.config.Near[i], f.Dst) || isBit(at(a.step.Acks, i), f.Dst) {
+	if err != api.OK || !w.has(f.Dst) || !isBit(w.near[i], f.Dst) || isBit(at(a.step.Acks, i), f.Dst) {
 		return nil
 	}
 	return a.answers[f.Dst]
@@ -107,7 +107,7 @@ func (w *World) prove(events []api.Event) {
 		switch e.Kind {
 		case api.EMoved:
 			w.proofs[e.I] = before[e.Src]
-			w.proofs[e.I].Heard(e.I, e.Src, w.config.Error)
+			w.proofs[e.I].Heard(e.I, e.Src, w.err)
 		case api.ELost:
 			w.proofs[e.I].Lose(e.I)
 		}

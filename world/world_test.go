@@ -372,6 +372,12 @@ func TestInject(t *testing.T) {
 	if r.w.Node(3).Off() != -3 {
 		t.Error(r.w.Node(3).Off())
 	}
+	// a beacon of the slot behind comes too soon, and is gone then
+	r = inTime(t)
+	late, _ := frame.Encode(api.Frame{Kind: api.FBeacon, Src: 2, Dst: api.All, IEs: []api.IE{{Kind: api.ISync, ASN: 41, Rank: 1}}})
+	r.inject(3, late)
+	r.has(r.slot(api.Step{}), ev(api.EHeard, 1, 0), ev(api.EMoved, 1, 0), ev(api.EHeard, 2, 0), ev(api.EMoved, 2, 0))
+	r.has(r.slot(api.Step{}), ev(api.EHeard, 0, 1), ev(api.EHeard, 2, 1))
 	// what was injected gets nothing back, and is nobody's answer
 	for lost, waits := range map[uint64]int{0: 0, 2: 1} {
 		r = newRig(t, config())
