@@ -98,7 +98,12 @@ func (n *Node) Hear(asn int64, b []byte, measured int) ([]byte, []api.Event) {
 	}
 	events := []api.Event{n.event(api.EHeard, f.Src)}
 	if n.id != root {
-		events = append(events, n.follow(f.Src, rank, asn, measured)...)
+		moved, follows := n.follow(f.Src, rank, asn, measured)
+		if !follows {
+			// nobody tells it the time any more, so it does not answer for it either: End sees to the rest
+			return nil, events
+		}
+		events = append(events, moved...)
 	}
 	if f.Dst != n.id || f.Kind != api.FData && f.Kind != api.FKeep {
 		return nil, events
@@ -126,13 +131,13 @@ func (n *Node) begin(f api.Frame, rank int, asn int64, measured int) []api.Event
 	}
 }
 
-// follow hears the rank of src; if that one is its first parent then, its clock moves.
-func (n *Node) follow(src, rank int, asn int64, ticks int) []api.Event {
+// follow hears the rank of src; if that one is its first parent then, its clock moves. It tells whether a parent is left.
+func (n *Node) follow(src, rank int, asn int64, ticks int) ([]api.Event, bool) {
 	was, had := n.set.First()
 	n.set.Hear(src, rank, asn)
 	now, has := n.set.First()
 	if !has {
-		return nil
+		return nil, false
 	}
 	var events []api.Event
 	if now == src {
@@ -143,7 +148,7 @@ func (n *Node) follow(src, rank int, asn int64, ticks int) []api.Event {
 	if !had || now != was {
 		events = append(events, n.event(api.EParent, now))
 	}
-	return events
+	return events, true
 }
 
 // answer is the sign that f was heard.
@@ -171,7 +176,8 @@ func (n *Node) Ack(asn int64, b []byte, measured int) []api.Event {
 		return nil
 	}
 	correct, _ := ie.Find(f.IEs, api.ICorrect)
-	return n.follow(f.Src, rank, asn, correct.Ticks)
+	events, _ := n.follow(f.Src, rank, asn, correct.Ticks)
+	return events
 }
 
 // missed is that nothing came back.

@@ -454,6 +454,48 @@ func TestAnswer(t *testing.T) {
 	r.has(events, ev(api.EHeard, 0, 4))
 }
 
+// P24.3: what leaves it without a parent is heard, and no more is done: whatever it is, from whomever.
+func TestHearWithoutParent(t *testing.T) {
+	mine := api.Packet{From: 2, To: 3, N: 5, Life: 5, Path: []int{0, 1, 3}, Data: []byte("x")}
+	up := api.Packet{From: 4, To: 0, N: 6, Life: 5, Path: []int{4}, Data: []byte("x")}
+	down := api.Packet{From: 0, To: 4, N: 7, Life: 5, Path: []int{0, 1, 3, 4}, Data: []byte("x")}
+	frames := func(r *rig, src, rank int) [][]byte {
+		sign := api.Frame{Kind: api.FKeep, Src: src, Dst: 3, IEs: []api.IE{r.beat(rank)}}
+		command := api.Frame{Kind: api.FCommand, Src: src, Dst: 3, IEs: []api.IE{r.beat(rank)}, Data: []byte("x")}
+		return [][]byte{
+			r.encode(sign), r.encode(command), r.beacon(src, rank), r.ack(src, 3, rank, 0),
+			r.data(src, 3, rank, 0, r.packet(mine)), r.data(src, 3, rank, 0, r.packet(up)), r.data(src, 3, rank, 0, r.packet(down)),
+		}
+	}
+	for i := range frames(synced(t), 1, 3) {
+		r := synced(t)
+		r.n.Slot(r.asn, 0)
+		// of its parent, whose rank is no longer below its own; then of one that it never followed
+		for _, src := range []int{1, 4} {
+			back, events := r.n.Hear(r.asn, frames(r, src, 3)[i], 20)
+			r.has(events, ev(api.EHeard, 3, src))
+			if len(back) > 0 {
+				t.Errorf("%d: goes back: %x", i, back)
+			}
+			r.is(true, 3, 0, 0)
+		}
+		// it follows somebody again: a packet that was not looked at is new
+		_, events := r.n.Hear(r.asn, r.data(2, 3, 2, 0, r.packet(mine)), 20)
+		r.has(events, ev(api.EHeard, 3, 2), ev(api.EMoved, 3, 2), ev(api.EParent, 3, 2), gotten(3, mine))
+		r.has(r.take(2, 2, up))
+		r.has(r.take(2, 2, down))
+		r.is(true, 3, 20, 2, 2)
+	}
+	// another parent is left: it is answered, and goes on
+	r := synced(t)
+	r.n.Hear(r.asn, r.beacon(2, 2), 0)
+	r.has(r.take(1, 3, mine), ev(api.EParent, 3, 2), gotten(3, mine))
+	// the last one is left: at the end of the slot it is lost, and nothing was put into the queue
+	r.n.Hear(r.asn, r.data(2, 3, 3, 0, r.packet(up)), 0)
+	r.is(true, 3, 0, 0)
+	r.has(r.n.End(r.asn), ev(api.ELost, 3, 0))
+}
+
 // P24.6: parents that are silent.
 func TestEnd(t *testing.T) {
 	r := synced(t)
